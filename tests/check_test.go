@@ -41,6 +41,38 @@ func roomy[T any](list []T, mark T) []T {
 	return all[:len(list)]
 }
 
+// coded is a result with a code.
+type coded[T any] struct {
+	value T
+	code  int64
+}
+
+// withCode makes one value of a result and its code.
+func withCode[T any](value T, code int64) coded[T] {
+	return coded[T]{value, code}
+}
+
+// sameCoded reports an error unless a result and its code are those wanted.
+func sameCoded[T any](t *testing.T, what string, got coded[T], value T, code int64) {
+	t.Helper()
+	same(t, what, got, withCode(value, code))
+}
+
+// sameCodedList is sameCoded for lists, where nil and an empty list are equivalent.
+func sameCodedList[T any](t *testing.T, what string, got coded[[]T], list []T, code int64) {
+	t.Helper()
+	sameList(t, what, got.value, list)
+	same(t, "code of "+what, got.code, code)
+}
+
+// numbers returns a function that returns numbers below n, always the same ones for a seed.
+func numbers(seed uint32) func(n uint32) int64 {
+	return func(n uint32) int64 {
+		seed = seed*1664525 + 1013904223
+		return int64((seed >> 8) % n)
+	}
+}
+
 // oddStrings are strings that are nearly, or not at all, what a function expects.
 func oddStrings() []string {
 	long := make([]byte, 5000)

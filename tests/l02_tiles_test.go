@@ -47,11 +47,7 @@ func validSets() []impl.TileSet {
 		set("abcdef", times(6, 20), times(6, 20), 0),
 		set("abcdef", times(6, 1), append(times(5, 20), 16), 4),
 	}
-	seed := uint32(1)
-	next := func(n uint32) int64 {
-		seed = seed*1664525 + 1013904223
-		return int64((seed >> 8) % n)
-	}
+	next := numbers(1)
 	for range 60 {
 		s := set("", nil, nil, next(5))
 		for _, c := range alphabet {
