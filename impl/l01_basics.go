@@ -26,6 +26,9 @@ const (
 	MaxWord = 12
 )
 
+// smallLetters has each small letter once, in ascending order.
+const smallLetters = "abcdefghijklmnopqrstuvwxyz"
+
 // maxDigits is the greatest number of digits that ReadDecimal accepts; so many always fit into an int64.
 const maxDigits = 18
 
