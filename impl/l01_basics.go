@@ -99,6 +99,17 @@ func IsWord(s string) bool {
 	return true
 }
 
+// lettersWith returns the small letters that are wanted, in ascending order.
+func lettersWith(wanted func(letter string) bool) string {
+	var letters strings.Builder
+	for _, letter := range smallLetters {
+		if wanted(string(letter)) {
+			letters.WriteRune(letter)
+		}
+	}
+	return letters.String()
+}
+
 func isSmall(r rune) bool {
 	return 'a' <= r && r <= 'z'
 }
