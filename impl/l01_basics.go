@@ -88,11 +88,13 @@ func SplitWords(s string) []string {
 
 // IsWord reports whether s is a word.
 func IsWord(s string) bool {
-	if s == "" || len(s) > MaxWord {
-		return false
-	}
+	return s != "" && len(s) <= MaxWord && consistsOf(s, isSmall)
+}
+
+// consistsOf reports whether all of s is allowed.
+func consistsOf(s string, allowed func(r rune) bool) bool {
 	for _, r := range s {
-		if !isSmall(r) {
+		if !allowed(r) {
 			return false
 		}
 	}
